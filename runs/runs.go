@@ -1,0 +1,65 @@
+// Package runs: small machines, what may be said of their runs, and whether it holds of all: see DOC.md.
+package runs
+
+// Errno is what a call answers: OK or the reason for a refusal.
+type Errno int
+
+const (
+	OK        Errno = 0
+	ErrLong   Errno = 1  // a text, or a list, above its bound
+	ErrText   Errno = 2  // no model, or no formula
+	ErrName   Errno = 3  // a name that no variable has
+	ErrValue  Errno = 4  // a first value that is too great
+	ErrTwice  Errno = 5  // a variable that is changed twice
+	ErrNest   Errno = 6  // too many brackets, one in another
+	ErrWeight Errno = 7  // a formula that is too heavy
+	ErrState  Errno = 8  // no state
+	ErrLoop   Errno = 9  // a loop that may not be
+	ErrRun    Errno = 10 // no run
+)
+
+// Lasso is states without an end: the list, and then again and again from the loop on.
+type Lasso struct {
+	States []string
+	Loop   int
+}
+
+// Check tells whether a text is a model (P3).
+func Check(model string) (Errno, int) {
+	_, errno, place := readModel(model)
+	return errno, place
+}
+
+// First tells the first states (P4).
+func First(model string) ([]string, Errno, int) {
+	m, errno, place := readModel(model)
+	if errno != OK {
+		return nil, errno, place
+	}
+	return m.texts(m.first()), OK, 0
+}
+
+// Next tells the next states (P5).
+func Next(model string, state string) ([]string, Errno, int) {
+	m, errno, place := readModel(model)
+	if errno != OK {
+		return nil, errno, place
+	}
+	s, ok := m.state(state)
+	if !ok {
+		return nil, ErrState, 0
+	}
+	return m.texts(m.next(s)), OK, 0
+}
+
+// Formula tells whether a text is a formula (P6). Not built yet.
+func Formula(model string, formula string) (Errno, int) { return 0, 0 }
+
+// Holds tells whether a formula holds of a lasso (P7). Not built yet.
+func Holds(model string, formula string, l Lasso) (bool, Errno, int) { return false, 0, 0 }
+
+// Run tells whether a lasso is a run (P8). Not built yet.
+func Run(model string, l Lasso) (Errno, int) { return 0, 0 }
+
+// Decide tells whether a formula holds of every run (P9). Not built yet.
+func Decide(model string, formula string) (bool, Lasso, Errno, int) { return false, Lasso{}, 0, 0 }
