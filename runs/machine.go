@@ -26,6 +26,28 @@ type machine struct {
 	rules     []rule
 }
 
+// compare is the condition that a sign makes of the terms on its sides.
+func compare(sign byte, left, right term) condition {
+	makers := map[byte]func(left, right term) condition{
+		'=': term.equals,
+		'#': term.differs,
+		'<': term.isBelow,
+	}
+	return makers[sign](left, right)
+}
+
+func (x term) equals(y term) condition {
+	return func(s state) bool { return x(s) == y(s) }
+}
+
+func (x term) differs(y term) condition {
+	return func(s state) bool { return x(s) != y(s) }
+}
+
+func (x term) isBelow(y term) condition {
+	return func(s state) bool { return x(s) < y(s) }
+}
+
 func makeRule(conditions []condition, changes []change) rule {
 	return func(was state) states {
 		for _, holds := range conditions {

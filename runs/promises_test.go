@@ -14,7 +14,8 @@ import (
 func oddTexts() []string {
 	odd := []string{"", "\x00", "\xff\xfe", "a1=0", "a1=0;", "a1=0;:a=?", strings.Repeat("a1=0,", 1<<18), strings.Repeat("(", 1<<20), strings.Repeat("\xf0", 120)}
 	for c := range 256 {
-		odd = append(odd, string([]byte{byte(c)}), "a1="+string([]byte{byte(c)}), "a1=0;"+string([]byte{byte(c)})+":a=1")
+		b := string([]byte{byte(c)})
+		odd = append(odd, b, "a1="+b, "a1=0;"+b+":a=1", "(a="+b, "(T"+b+"T)", b+"T")
 	}
 	return odd
 }
@@ -37,6 +38,31 @@ func TestP1ListsAndPlaces(t *testing.T) {
 		}
 		if got, e, _ := runs.Next("a1=0;:a=?", text); (e == runs.OK) != (text == "0" || text == "1") || (e == runs.OK) != (len(got) > 0) {
 			t.Errorf("Next(.., %.20q) = %v %d", text, got, e)
+		}
+	}
+}
+
+// Beside an error nothing holds, and the place is within what it tells of.
+func TestP1FalseAndPlaces(t *testing.T) {
+	l := runs.Lasso{States: []string{"0"}}
+	for _, text := range oddTexts() {
+		for _, model := range []string{text, "a1=0;:a=?"} {
+			want, place := runs.Formula(model, text)
+			if place < 0 || place > len(text) || want == runs.OK && place != 0 {
+				t.Errorf("Formula(%.20q, %.20q) = %d %d", model, text, want, place)
+			}
+			if got, e, p := runs.Holds(model, text, l); got && e != runs.OK || e != want || p != place {
+				t.Errorf("Holds(%.20q, %.20q, ..) = %v %d %d", model, text, got, e, p)
+			}
+			want, place = wantRun(model, l)
+			testRun(t, model, l, want, place)
+		}
+		odd := runs.Lasso{States: []string{"0", text}, Loop: 1}
+		if e, p := runs.Run("a1=0;:a=?", odd); (e == runs.OK) != (text == "0" || text == "1") || e != runs.OK && (e != runs.ErrState || p != 1) {
+			t.Errorf("Run(.., %.20q) = %d %d", text, e, p)
+		}
+		if got, e, p := runs.Holds("a1=0;:a=?", "T", odd); got != (text == "0" || text == "1") || !got && (e != runs.ErrState || p != 1) {
+			t.Errorf("Holds(.., %.20q) = %v %d %d", text, got, e, p)
 		}
 	}
 }
@@ -80,32 +106,64 @@ func TestP2AnsweredListIsTheCallers(t *testing.T) {
 	}
 }
 
+func TestP2HandedInListIsNotChanged(t *testing.T) {
+	const model = "a2=0,b1=01;a<2:a=a+1;a=2:a=0,b=?"
+	whole := []string{"00", "10", "20", "x", "spare", ""}
+	for n := range len(whole) + 1 {
+		for loop := -1; loop <= n; loop++ {
+			states := slices.Clone(whole)
+			l := runs.Lasso{States: states[:n], Loop: loop}
+			held, e, p := runs.Holds(model, "GF(a=2|Xb=1)", l)
+			runE, runP := runs.Run(model, l)
+			if !slices.Equal(states, whole) || len(l.States) != n || l.Loop != loop {
+				t.Fatalf("of %d states, with the loop %d: they are now %v", n, loop, states)
+			}
+			if againHeld, againE, againP := runs.Holds(model, "GF(a=2|Xb=1)", l); againHeld != held || againE != e || againP != p {
+				t.Errorf("Holds of %v: %v %d %d, and then %v %d %d", l, held, e, p, againHeld, againE, againP)
+			}
+			if againE, againP := runs.Run(model, l); againE != runE || againP != runP {
+				t.Errorf("Run of %v: %d %d, and then %d %d", l, runE, runP, againE, againP)
+			}
+		}
+	}
+}
+
 func TestP2NothingIsKept(t *testing.T) {
 	w := newWriter(true)
-	var models []string
+	type question struct {
+		model, formula string
+		lasso          runs.Lasso
+	}
+	var questions []question
 	for range 300 {
-		models = append(models, w.model())
+		model := w.model()
+		questions = append(questions, question{model, w.formula(model), w.lasso(model, 8)})
 	}
 	type answer struct {
-		errno runs.Errno
-		place int
-		first string
+		errnos [4]runs.Errno
+		places [4]int
+		first  string
+		held   bool
 	}
-	ask := func(model string) answer {
-		e, p := runs.Check(model)
-		first, _, _ := runs.First(model)
-		return answer{e, p, strings.Join(first, " ")}
+	ask := func(q question) (a answer) {
+		a.errnos[0], a.places[0] = runs.Check(q.model)
+		a.errnos[1], a.places[1] = runs.Formula(q.model, q.formula)
+		a.held, a.errnos[2], a.places[2] = runs.Holds(q.model, q.formula, q.lasso)
+		a.errnos[3], a.places[3] = runs.Run(q.model, q.lasso)
+		first, _, _ := runs.First(q.model)
+		a.first = strings.Join(first, " ")
+		return a
 	}
-	once := make([]answer, len(models))
-	for i, m := range models {
-		once[i] = ask(m)
+	once := make([]answer, len(questions))
+	for i, q := range questions {
+		once[i] = ask(q)
 	}
 	var all sync.WaitGroup
 	for range 4 {
 		all.Go(func() {
-			for i := len(models) - 1; i >= 0; i-- {
-				if got := ask(models[i]); got != once[i] {
-					t.Errorf("%q: %v, and then %v", models[i], once[i], got)
+			for i := len(questions) - 1; i >= 0; i-- {
+				if got := ask(questions[i]); got != once[i] {
+					t.Errorf("%v: %v, and then %v", questions[i], once[i], got)
 				}
 			}
 		})

@@ -26,24 +26,24 @@ type Lasso struct {
 
 // Check tells whether a text is a model (P3).
 func Check(model string) (Errno, int) {
-	_, errno, place := readModel(model)
-	return errno, place
+	_, errno, at := readModel(model)
+	return errno, at
 }
 
 // First tells the first states (P4).
 func First(model string) ([]string, Errno, int) {
-	m, errno, place := readModel(model)
+	m, errno, at := readModel(model)
 	if errno != OK {
-		return nil, errno, place
+		return nil, errno, at
 	}
 	return m.texts(m.first()), OK, 0
 }
 
 // Next tells the next states (P5).
 func Next(model string, state string) ([]string, Errno, int) {
-	m, errno, place := readModel(model)
+	m, errno, at := readModel(model)
 	if errno != OK {
-		return nil, errno, place
+		return nil, errno, at
 	}
 	s, ok := m.state(state)
 	if !ok {
@@ -52,14 +52,49 @@ func Next(model string, state string) ([]string, Errno, int) {
 	return m.texts(m.next(s)), OK, 0
 }
 
-// Formula tells whether a text is a formula (P6). Not built yet.
-func Formula(model string, formula string) (Errno, int) { return 0, 0 }
+// Formula tells whether a text is a formula (P6).
+func Formula(model string, formula string) (Errno, int) {
+	_, _, errno, at := readBoth(model, formula)
+	return errno, at
+}
 
-// Holds tells whether a formula holds of a lasso (P7). Not built yet.
-func Holds(model string, formula string, l Lasso) (bool, Errno, int) { return false, 0, 0 }
+// Holds tells whether a formula holds of a lasso (P7).
+func Holds(model string, formula string, l Lasso) (bool, Errno, int) {
+	m, said, errno, at := readBoth(model, formula)
+	if errno != OK {
+		return false, errno, at
+	}
+	list, errno, at := m.lasso(l)
+	if errno != OK {
+		return false, errno, at
+	}
+	return said.holds(list, l.Loop), OK, 0
+}
 
-// Run tells whether a lasso is a run (P8). Not built yet.
-func Run(model string, l Lasso) (Errno, int) { return 0, 0 }
+// Run tells whether a lasso is a run (P8).
+func Run(model string, l Lasso) (Errno, int) {
+	m, errno, at := readModel(model)
+	if errno != OK {
+		return errno, at
+	}
+	list, errno, at := m.lasso(l)
+	if errno != OK {
+		return errno, at
+	}
+	if number, is := m.stray(list, l.Loop); is {
+		return ErrRun, number
+	}
+	return OK, 0
+}
 
 // Decide tells whether a formula holds of every run (P9). Not built yet.
 func Decide(model string, formula string) (bool, Lasso, Errno, int) { return false, Lasso{}, 0, 0 }
+
+func readBoth(model string, formula string) (*machine, saying, Errno, int) {
+	m, errno, at := readModel(model)
+	if errno != OK {
+		return m, saying{}, errno, at
+	}
+	said, errno, at := readFormula(m, formula)
+	return m, said, errno, at
+}

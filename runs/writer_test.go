@@ -3,9 +3,11 @@ package runs_test
 import (
 	"math/rand"
 	"strings"
+
+	"runs/runs"
 )
 
-// writer writes models, always the same ones in the same order. A loose one takes any names, first values and changes: what it writes has faults, but is never ErrText's.
+// writer writes models, formulas and lassos, always the same ones in the same order. A loose one takes any names, first values and changes: what it writes has faults, but is never ErrText's.
 type writer struct {
 	dice  *rand.Rand
 	loose bool
@@ -86,4 +88,75 @@ func (w writer) model() string {
 		model = longer
 	}
 	return model
+}
+
+func (w writer) plain(names string) string {
+	if w.dice.Intn(6) == 0 {
+		return "T"
+	}
+	return w.term(names) + w.pick("=#<") + w.term(names)
+}
+
+func (w writer) one(names string, depth int) string {
+	kind := w.dice.Intn(5)
+	switch {
+	case depth == 0 || kind == 0:
+		return w.plain(names)
+	case kind == 1:
+		return "(" + w.anyFormula(names, depth-1) + ")"
+	}
+	return w.pick("!XFG") + w.one(names, depth-1)
+}
+
+func (w writer) pair(names string, depth int) string {
+	one := w.one(names, depth)
+	if w.dice.Intn(3) == 0 {
+		return one + w.pick("URW") + w.one(names, depth)
+	}
+	return one
+}
+
+func (w writer) anyFormula(names string, depth int) string {
+	f := w.pair(names, depth)
+	for w.dice.Intn(3) == 0 {
+		f += w.pick("&|") + w.pair(names, depth)
+	}
+	return f
+}
+
+// formula is one of the model's; a loose one may be too long or too heavy, and may have any name.
+func (w writer) formula(model string) string {
+	head, _, _ := strings.Cut(model, ";")
+	names := "abc"[:strings.Count(head, ",")+1]
+	if w.loose && w.dice.Intn(4) == 0 {
+		names = "abc"
+	}
+	for {
+		f := w.anyFormula(names, 4)
+		if w.loose || len(f) <= 60 && weight(f) <= 4 {
+			return f
+		}
+	}
+}
+
+// lasso has states of the model, in any order.
+func (w writer) lasso(model string, most int) runs.Lasso {
+	all := allStates(model)
+	list := make([]string, 1+w.dice.Intn(most))
+	for i := range list {
+		list[i] = all[w.dice.Intn(len(all))]
+	}
+	return runs.Lasso{States: list, Loop: w.dice.Intn(len(list))}
+}
+
+// walk is a lasso that goes as a run does, but for its loop.
+func (w writer) walk(model string, most int) runs.Lasso {
+	var list []string
+	next := wantFirst(model)
+	for range 1 + w.dice.Intn(most) {
+		s := next[w.dice.Intn(len(next))]
+		list = append(list, s)
+		next = wantNext(model, s)
+	}
+	return runs.Lasso{States: list, Loop: w.dice.Intn(len(list))}
 }

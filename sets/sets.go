@@ -21,6 +21,11 @@ func With[S Bits](set S, n int) S {
 	return set | one[S](n)
 }
 
+// Without is the set, but not n.
+func Without[S Bits](set S, n int) S {
+	return set &^ one[S](n)
+}
+
 // Below is the set of all numbers below n.
 func Below[S Bits](n int) S {
 	if n <= 0 {

@@ -45,7 +45,24 @@ func TestWithKeepsWhatIsThere(t *testing.T) {
 	}
 }
 
+func TestWithout(t *testing.T) {
+	set := sets.Without(sets.Without(sets.Below[large](64), 63), 0)
+	if got := slices.Collect(sets.Members(sets.Without(set, 63))); len(got) != 62 || got[0] != 1 || got[61] != 62 {
+		t.Errorf("got %v", got)
+	}
+	for n := -1; n < 9; n++ {
+		if got := sets.Without(sets.With(small(0), n), n); got != 0 {
+			t.Errorf("Without({%d}, %d) = %d", n, n, got)
+		}
+	}
+}
+
 func TestNumbersWithoutABit(t *testing.T) {
+	for _, n := range []int{-1, 8} {
+		if got := sets.Without(small(3), n); got != 3 {
+			t.Errorf("Without(3, %d) = %d", n, got)
+		}
+	}
 	if got := sets.With(small(3), -1); got != 3 {
 		t.Errorf("With(3, -1) = %d", got)
 	}
