@@ -21,7 +21,8 @@ type formula func(at place) bool
 // part is what X, F, G, U, R and W make: whether it holds at a place hangs on the next one, too.
 type part struct {
 	holds   func(here, next place) bool
-	endless bool // whether it holds where every place leaves it to the next one
+	endless bool    // whether it holds where every place leaves it to the next one
+	settled formula // where what is said of it does not lean on later places for ever
 }
 
 // saying is a whole formula. Each of its parts stands behind those that it is made of.
@@ -63,7 +64,7 @@ func (s *saying) or(f, g formula) formula {
 }
 
 func (s *saying) next(_, f formula) formula {
-	return s.keep(part{holds: func(_, next place) bool { return f(next) }})
+	return s.keep(part{holds: func(_, next place) bool { return f(next) }, settled: always})
 }
 
 func (s *saying) some(_, f formula) formula { return s.until(always, f) }
@@ -79,7 +80,11 @@ func (s *saying) unless(f, g formula) formula { return s.putOff(f, g, true) }
 // putOff holds where g does; where only f does, it is left to the next place.
 func (s *saying) putOff(f, g formula, endless bool) formula {
 	var itself formula
-	itself = s.keep(part{func(here, next place) bool { return g(here) || f(here) && itself(next) }, endless})
+	itself = s.keep(part{
+		holds:   func(here, next place) bool { return g(here) || f(here) && itself(next) },
+		endless: endless,
+		settled: func(at place) bool { return itself(at) == endless || g(at) || !f(at) },
+	})
 	return itself
 }
 
@@ -112,6 +117,39 @@ func (p part) mark(number int, places []place, loop int) {
 			next = places[at]
 		}
 	}
+}
+
+// before is the place of a state ahead of another place: these two settle which parts hold there.
+func (s *saying) before(at state, next place) place {
+	here := place{state: at}
+	for number, p := range s.parts {
+		here.mark(number, p.holds(here, next))
+	}
+	return here
+}
+
+// places are those that a state may stand at: one for each way in which a run may go on from it.
+func (s *saying) places(at state) []place {
+	var out []place
+	for held := range 1 << len(s.parts) {
+		out = append(out, place{at, parts(held)})
+	}
+	return out
+}
+
+// settled are the parts that are settled at a place.
+func (s *saying) settled(at place) parts {
+	var out parts
+	for number, p := range s.parts {
+		if p.settled(at) {
+			out = sets.With(out, number)
+		}
+	}
+	return out
+}
+
+func (s *saying) allParts() parts {
+	return sets.Below[parts](len(s.parts))
 }
 
 func (at *place) mark(number int, holds bool) {

@@ -34,3 +34,12 @@ func (m *machine) stray(list []state, loop int) (int, bool) {
 	}
 	return 0, false
 }
+
+// write tells the states of a trail.
+func (m *machine) write(t trail) Lasso {
+	l := Lasso{Loop: t.loop}
+	for _, at := range t.places {
+		l.States = append(l.States, m.text(at.state))
+	}
+	return l
+}

@@ -82,6 +82,20 @@ func (m *machine) next(s state) states {
 	return all
 }
 
+// reached are the states of all runs.
+func (m *machine) reached() states {
+	all := m.first()
+	for rest := all; rest != 0; {
+		var more states
+		for s := range sets.Members(rest) {
+			more |= m.next(state(s))
+		}
+		rest = more &^ all
+		all |= more
+	}
+	return all
+}
+
 // state reads a state's text; false: it is none of the machine's.
 func (m *machine) state(text string) (state, bool) {
 	var s state

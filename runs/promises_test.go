@@ -54,6 +54,9 @@ func TestP1FalseAndPlaces(t *testing.T) {
 			if got, e, p := runs.Holds(model, text, l); got && e != runs.OK || e != want || p != place {
 				t.Errorf("Holds(%.20q, %.20q, ..) = %v %d %d", model, text, got, e, p)
 			}
+			if got, l, e, p := runs.Decide(model, text); got && e != runs.OK || (got || e != runs.OK) && (len(l.States) > 0 || l.Loop != 0) || e != want || p != place {
+				t.Errorf("Decide(%.20q, %.20q) = %v %s %d %d", model, text, got, show(l), e, p)
+			}
 			want, place = wantRun(model, l)
 			testRun(t, model, l, want, place)
 		}
@@ -87,9 +90,10 @@ func TestP2AnsweredListIsTheCallers(t *testing.T) {
 		first, _, _ := runs.First(model)
 		next, _, _ := runs.Next(model, "10")
 		itself, _, _ := runs.Next(model, "00")
-		return [][]string{first, next, itself}
+		_, against, _, _ := runs.Decide(model, "a=0|Gb=1")
+		return [][]string{first, next, itself, against.States}
 	}
-	want := [][]string{{"00", "01", "10", "11"}, {"10", "11"}, {"00"}}
+	want := [][]string{{"00", "01", "10", "11"}, {"10", "11"}, {"00"}, {"10"}}
 	for range 3 {
 		got := ask()
 		for i := range want {
@@ -140,10 +144,11 @@ func TestP2NothingIsKept(t *testing.T) {
 		questions = append(questions, question{model, w.formula(model), w.lasso(model, 8)})
 	}
 	type answer struct {
-		errnos [4]runs.Errno
-		places [4]int
-		first  string
-		held   bool
+		errnos         [5]runs.Errno
+		places         [5]int
+		first, against string
+		held, decided  bool
+		loop           int
 	}
 	ask := func(q question) (a answer) {
 		a.errnos[0], a.places[0] = runs.Check(q.model)
@@ -152,6 +157,9 @@ func TestP2NothingIsKept(t *testing.T) {
 		a.errnos[3], a.places[3] = runs.Run(q.model, q.lasso)
 		first, _, _ := runs.First(q.model)
 		a.first = strings.Join(first, " ")
+		var l runs.Lasso
+		a.decided, l, a.errnos[4], a.places[4] = runs.Decide(q.model, q.formula)
+		a.against, a.loop = strings.Join(l.States, " "), l.Loop
 		return a
 	}
 	once := make([]answer, len(questions))

@@ -87,8 +87,18 @@ func Run(model string, l Lasso) (Errno, int) {
 	return OK, 0
 }
 
-// Decide tells whether a formula holds of every run (P9). Not built yet.
-func Decide(model string, formula string) (bool, Lasso, Errno, int) { return false, Lasso{}, 0, 0 }
+// Decide tells whether a formula holds of every run (P9).
+func Decide(model string, formula string) (bool, Lasso, Errno, int) {
+	m, said, errno, at := readBoth(model, formula)
+	if errno != OK {
+		return false, Lasso{}, errno, at
+	}
+	against, is := makeWeb(m, said).lowest(m.first())
+	if !is {
+		return true, Lasso{}, OK, 0
+	}
+	return false, m.write(against), OK, 0
+}
 
 func readBoth(model string, formula string) (*machine, saying, Errno, int) {
 	m, errno, at := readModel(model)
